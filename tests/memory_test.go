@@ -7,42 +7,47 @@ import (
 
 const filler = -424242
 
-// roomy is a copy of list with spare room behind it, filled, so that a write there is seen by roomKept.
-func roomy(list []int) []int {
-	room := append(slices.Clone(list), slices.Repeat([]int{filler}, 40)...)
+// spare is how much room roomyWith lays behind a list.
+const spare = 40
+
+// roomyWith is a copy of list with spare room behind it, filled, so that a write there is seen by roomKeptWith.
+func roomyWith[T comparable](list []T, fill T) []T {
+	room := append(slices.Clone(list), slices.Repeat([]T{fill}, spare)...)
 	return room[:len(list)]
 }
 
-// roomKept tells whether given, made by roomy(list), and the room behind it are as they were.
-func roomKept(given []int, list []int) bool {
-	room := given[:len(list)+40]
+// roomKeptWith tells whether given, made by roomyWith(list, fill), and the room behind it are as they were.
+func roomKeptWith[T comparable](given []T, list []T, fill T) bool {
+	room := given[:len(list)+spare]
 	if !slices.Equal(room[:len(list)], list) {
 		return false
 	}
-	return !slices.ContainsFunc(room[len(list):], func(n int) bool { return n != filler })
+	return !slices.ContainsFunc(room[len(list):], func(x T) bool { return x != fill })
 }
 
-// spoil writes mark over a list and the spare room behind it.
-func spoil(list []int, mark int) {
+func roomy(list []int) []int { return roomyWith(list, filler) }
+
+// spoilWith changes each value of a list and of the spare room behind it.
+func spoilWith[T any](list []T, change func(T) T) {
 	room := list[:cap(list)]
 	for i := range room {
-		room[i] = mark
+		room[i] = change(room[i])
 	}
 }
 
-// checkApart spoils the answers one by one, each with a mark of its own: neither the argument nor another answer may change by it.
-func checkApart(t *testing.T, what string, given []int, list []int, answers ...[]int) {
+// checkApartWith spoils the answers one by one by change, which tells another value than it is given: neither the argument nor another answer may change by it.
+func checkApartWith[T comparable](t *testing.T, what string, given []T, list []T, fill T, change func(T) T, answers ...[]T) {
 	t.Helper()
-	if !roomKept(given, list) {
+	if !roomKeptWith(given, list, fill) {
 		t.Errorf("%s writes into its argument: %v", what, list)
 	}
 	for i, a := range answers {
-		var before [][]int
+		var before [][]T
 		for _, b := range answers {
 			before = append(before, slices.Clone(b))
 		}
-		spoil(a, filler-1-i)
-		if !roomKept(given, list) {
+		spoilWith(a, change)
+		if !roomKeptWith(given, list, fill) {
 			t.Errorf("%s: answer %d shares memory with its argument: %v", what, i, list)
 		}
 		for j, b := range answers {
@@ -51,4 +56,9 @@ func checkApart(t *testing.T, what string, given []int, list []int, answers ...[
 			}
 		}
 	}
+}
+
+func checkApart(t *testing.T, what string, given []int, list []int, answers ...[]int) {
+	t.Helper()
+	checkApartWith(t, what, given, list, filler, func(n int) int { return n + 1000003 }, answers...)
 }

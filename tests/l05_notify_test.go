@@ -164,15 +164,20 @@ func wrongCounts() []impl.Notify {
 
 // whosFor are clients and others at their edges, some that stand in Line, and some that were told.
 func whosFor(n impl.Notify) []int {
-	list := []int{math.MinInt, -1, 0, 1, 31, 32, impl.MaxWho - 1, impl.MaxWho, 256, 1 << 32, math.MaxInt}
-	for _, i := range []int{0, 1, 2, len(n.Line) / 2, len(n.Line) - 1} {
-		if 0 <= i && i < len(n.Line) {
-			list = append(list, n.Line[i])
-		}
+	var told []int
+	for _, g := range n.Grants {
+		told = append(told, g.Who)
 	}
-	for _, i := range []int{0, 1, 2, len(n.Grants) / 2, len(n.Grants) - 2, len(n.Grants) - 1} {
-		if 0 <= i && i < len(n.Grants) {
-			list = append(list, n.Grants[i].Who)
+	return whosAround(n.Line, told)
+}
+
+func whosAround(line []int, told []int) []int {
+	list := []int{math.MinInt, -1, 0, 1, 31, 32, impl.MaxWho - 1, impl.MaxWho, 256, 1 << 32, math.MaxInt}
+	for _, of := range [][]int{line, told} {
+		for _, i := range []int{0, 1, 2, len(of) / 2, len(of) - 2, len(of) - 1} {
+			if 0 <= i && i < len(of) {
+				list = append(list, of[i])
+			}
 		}
 	}
 	slices.Sort(list)

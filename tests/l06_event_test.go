@@ -874,8 +874,9 @@ func TestEveryShortRowOfAnEvent(t *testing.T) {
 			}
 			states = next
 		}
-		if len(seen) < 30 {
-			t.Error("these rows come to too little", auto, len(seen))
+		// Of one that is not Auto there are 49 that are down and 16 that are up; an Auto one always counts on.
+		if !auto && len(seen) != 65 || auto && len(seen) < 500 {
+			t.Error("these rows come to", auto, len(seen))
 		}
 	}
 }

@@ -190,14 +190,16 @@ const (
 	callSubscribe
 	callUnsubscribe
 	callClose
+	callPull
+	callSkip
 )
 
 // ringCall is one call of a row: its kind, and what that asks for.
 type ringCall struct {
-	kind, id int
-	m        impl.Msg
-	f        []impl.Term
-	back     bool
+	kind, id, n int
+	m           impl.Msg
+	f           []impl.Term
+	back        bool
 }
 
 // ringRow is what a row of calls has come to.
@@ -228,6 +230,10 @@ func (s ringRow) ask(x ringCall) ringAnswer {
 		a.r, a.code = impl.Unsubscribe(s.r, x.id)
 	case callClose:
 		a.r, a.list, a.code = impl.CloseRing(s.r)
+	case callPull:
+		a.r, a.tells, a.code = impl.Pull(s.r, x.id, x.n)
+	case callSkip:
+		a.r, a.code = impl.SkipTo(s.r, x.id, x.n)
 	}
 	return a
 }
@@ -249,6 +255,10 @@ func (b *ringBook) ask(x ringCall) ringAnswer {
 		a.code = b.unsubscribe(x.id)
 	case callClose:
 		a.list, a.code = b.close()
+	case callPull:
+		a.tells, a.code = b.pull(x.id, x.n)
+	case callSkip:
+		a.code = b.skip(x.id, x.n)
 	}
 	a.r = b.ring()
 	return a
@@ -285,30 +295,42 @@ func (s ringRow) checkSending(t *testing.T, x ringCall, a ringAnswer) {
 	}
 }
 
-// checkTelling: the numbers that a Sub is told rise, and what is told as lost has room or more behind it; d is what the call has led to.
+// checkTelling looks at all that the Sub is told by one call; d is what the call has led to.
 func (s ringRow) checkTelling(t *testing.T, x ringCall, a ringAnswer, d ringRow) {
 	t.Helper()
-	if a.x.Kind == 0 {
+	tells := slices.Clone(a.tells)
+	if a.x.Kind != 0 {
+		if a.code != impl.Done {
+			t.Fatal("told with another code", s.r, x, a)
+		}
+		tells = append(tells, a.x)
+	}
+	for i, told := range tells {
+		cursor := s.r.Subs[subPlace(s.r, x.id)].Cursor
+		if i > 0 {
+			cursor += tells[0].N
+		}
+		s.checkTold(t, x, told, cursor, d.b.sub(x.id))
+	}
+}
+
+// checkTold: the numbers that a Sub is told rise, and what is told as lost has room or more behind it.
+func (s ringRow) checkTold(t *testing.T, x ringCall, told impl.Told, cursor int, sub *bookSub) {
+	t.Helper()
+	if told.Kind == impl.RLost {
+		last := cursor + told.N - 1
+		if told.N < 1 || s.r.Sent-1-last < s.r.Cap || told.Msg != (impl.Msg{}) || told.Index != 0 {
+			t.Fatal("lost", s.r, x, told)
+		}
 		return
 	}
-	sub, before := d.b.sub(x.id), s.r.Subs[subPlace(s.r, x.id)]
-	switch {
-	case a.code != impl.Done:
-		t.Fatal("told with another code", s.r, x, a)
-	case a.x.Kind == impl.RLost:
-		last := before.Cursor + a.x.N - 1
-		if a.x.N < 1 || s.r.Sent-1-last < s.r.Cap || a.x.Msg != (impl.Msg{}) || a.x.Index != 0 {
-			t.Fatal("lost", s.r, x, a)
-		}
-	default:
-		if a.x.Index < before.Cursor || a.x.Index >= s.r.Sent || a.x.Msg != s.b.sent[a.x.Index-s.b.base] || !impl.Passes(before.Filter, a.x.Msg) || a.x.N != 0 {
-			t.Fatal("got", s.r, x, a)
-		}
-		if len(sub.heard) > 0 && sub.heard[len(sub.heard)-1] >= a.x.Index || a.x.Index < sub.start {
-			t.Fatal("does not rise", s.r, x, a, sub.heard)
-		}
-		sub.heard = append(sub.heard, a.x.Index)
+	if told.Index < cursor || told.Index >= s.r.Sent || told.Msg != s.b.sent[told.Index-s.b.base] || !impl.Passes(sub.filter, told.Msg) || told.N != 0 {
+		t.Fatal("got", s.r, x, told)
 	}
+	if len(sub.heard) > 0 && sub.heard[len(sub.heard)-1] >= told.Index || told.Index < sub.start {
+		t.Fatal("does not rise", s.r, x, told, sub.heard)
+	}
+	sub.heard = append(sub.heard, told.Index)
 }
 
 // checkPromise: got, passed by and lost are together from Start to Cursor; the ring keeps what its slowest Sub has not read, at most Cap, and nothing when it has no Sub; who waits has read all, and nobody waits at a closed ring.
@@ -423,7 +445,7 @@ func TestEveryRowOfARing(t *testing.T) {
 
 // someRingCall is of a kind that kinds names by its letter; mostly of a Sub that there is.
 func someRingCall(r *rand.Rand, s ringRow, kinds string) ringCall {
-	x := ringCall{kind: strings.IndexByte("srpwaqc", kinds[r.IntN(len(kinds))]), id: r.IntN(20) - 1, m: sentAs(r.IntN(400)), back: r.IntN(2) == 0}
+	x := ringCall{kind: strings.IndexByte("srpwaqclk", kinds[r.IntN(len(kinds))]), id: r.IntN(20) - 1, m: sentAs(r.IntN(400)), back: r.IntN(2) == 0}
 	if n := len(s.r.Subs); n > 0 && r.IntN(20) > 0 {
 		x.id = s.r.Subs[r.IntN(n)].Id
 	}

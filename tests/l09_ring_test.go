@@ -214,13 +214,14 @@ func (g ringGiven) checkKept(t *testing.T, what string, f []impl.Term) {
 	}
 }
 
-// ringAnswer has what any function of rings answers; what one does not answer is left empty.
+// ringAnswer has what any function of rings and of readers answers that answers a ring; what one does not answer is left empty.
 type ringAnswer struct {
-	r    impl.Ring
-	list []int
-	id   int
-	x    impl.Told
-	code int
+	r     impl.Ring
+	list  []int
+	id    int
+	x     impl.Told
+	tells []impl.Told
+	code  int
 }
 
 // brief cuts what is told of a fault: some of the wrong rings are very long.
@@ -233,7 +234,7 @@ func brief(x any) string {
 }
 
 func sameAnswer(a ringAnswer, b ringAnswer) bool {
-	return sameRing(a.r, b.r) && slices.Equal(a.list, b.list) && a.id == b.id && a.x == b.x && a.code == b.code
+	return sameRing(a.r, b.r) && slices.Equal(a.list, b.list) && a.id == b.id && a.x == b.x && slices.Equal(a.tells, b.tells) && a.code == b.code
 }
 
 // checkApartFrom lays a number of its own into each place of an answer: where two places share memory the one ahead has lost it, and where one is shared with what was handed in, that has changed.

@@ -58,6 +58,19 @@ func checkApartWith[T comparable](t *testing.T, what string, given []T, list []T
 	}
 }
 
+// lieApart lays a number of its own into each place, and tells whether all of them are still there then: where two share memory the one ahead has lost it.
+func lieApart(places []*int) bool {
+	for i, p := range places {
+		*p = 7000000 + i
+	}
+	for i, p := range places {
+		if *p != 7000000+i {
+			return false
+		}
+	}
+	return true
+}
+
 func checkApart(t *testing.T, what string, given []int, list []int, answers ...[]int) {
 	t.Helper()
 	checkApartWith(t, what, given, list, filler, func(n int) int { return n + 1000003 }, answers...)

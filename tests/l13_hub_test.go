@@ -614,9 +614,8 @@ func bareHub() impl.Hub {
 	}
 }
 
-// fewWhos are some of those that whosAround tells, at each place another few, so that all are come to.
-func fewWhos(i int, line []int, grants []int) []int {
-	all := whosAround(line, grants)
+// fewOf are three of all, at each place others, so that all are come to.
+func fewOf(i int, all []int) []int {
 	return []int{all[i%len(all)], all[(i+5)%len(all)], all[(i+9)%len(all)]}
 }
 
@@ -627,7 +626,7 @@ func TestEachNoteInAHub(t *testing.T) {
 		if i%3 == 0 {
 			h := bareHub()
 			h.Notes = append(h.Notes, n)
-			checkCalls(t, h, fewWhos(i, n.Line, whosFor(n)), calls)
+			checkCalls(t, h, fewOf(i, whosFor(n)), calls)
 		}
 	}
 }
@@ -638,7 +637,7 @@ func TestEachEventInAHub(t *testing.T) {
 		if i%3 == 0 {
 			h := bareHub()
 			h.Events = append(h.Events, e)
-			checkCalls(t, h, fewWhos(i, e.Line, e.Grants), calls)
+			checkCalls(t, h, fewOf(i, whosAround(e.Line, e.Grants)), calls)
 		}
 	}
 }
@@ -651,7 +650,7 @@ func TestEachLatchInAHub(t *testing.T) {
 		for _, n := range []int{0, 1, l.Count - 1, l.Count, l.Count + 1} {
 			calls = append(calls, asksWith(impl.OpDown, 1, n))
 		}
-		checkCalls(t, h, fewWhos(i, l.Line, l.Grants), calls)
+		checkCalls(t, h, fewOf(i, whosAround(l.Line, l.Grants)), calls)
 	}
 }
 
@@ -670,7 +669,7 @@ func TestEachCellInAHub(t *testing.T) {
 				h.Users[who].Seen = []int{0, seen}
 			}
 			if (i+j)%3 == 0 {
-				checkCalls(t, h, fewWhos(i+j, c.Line, c.Grants), calls)
+				checkCalls(t, h, fewOf(i+j, whosAround(c.Line, c.Grants)), calls)
 			}
 		}
 	}

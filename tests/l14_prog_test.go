@@ -182,13 +182,15 @@ func wholeCalls(list []impl.Call) []impl.Call {
 	})
 }
 
-// spoilCalls changes all there is of an answer; it tells false where two lists of it share memory.
-func spoilCalls(list []impl.Call) bool {
-	places := placesIn(roomOf(list), func(c *impl.Call) []*int {
-		return append([]*int{&c.Op, &c.A, &c.B, &c.Tok, &c.Msg.Kind, &c.Msg.Num}, placesIn(roomOf(c.Filter), func(x *impl.Term) []*int { return []*int{&x.Op, &x.Num} })...)
+// callPlaces is where a number can be laid into calls and their Filters, and into the room behind them.
+func callPlaces(list []impl.Call) []*int {
+	return placesIn(list, func(c *impl.Call) []*int {
+		return append([]*int{&c.Op, &c.A, &c.B, &c.Tok, &c.Msg.Kind, &c.Msg.Num}, placesIn(c.Filter, func(x *impl.Term) []*int { return []*int{&x.Op, &x.Num} })...)
 	})
-	return lieApart(places)
 }
+
+// spoilCalls changes all there is of an answer; it tells false where two lists of it share memory.
+func spoilCalls(list []impl.Call) bool { return lieApart(callPlaces(list)) }
 
 func cloneCalls(list []impl.Call) []impl.Call {
 	return cloneEach(list, func(c impl.Call) impl.Call {

@@ -409,7 +409,7 @@ func legState() impl.State {
 	over := mergeInto(5, overAt(2, 7), overAt(0, 9))
 	far := mergeInto(0, legAt(4, 2), overAt(1, 2))
 	far.Moved, far.Legs[0].Lost = most, most-1
-	return cloneState(impl.State{Hub: impl.Hub{Topics: list, Merges: []impl.Merge{m, over, far, mergeInto(3, legAt(6, 4))}, Users: users(1)}, Clients: []impl.Client{{Prog: []impl.Call{publishes(">", num(1)), asks(impl.OpClose, 6)}}}})
+	return cloneState(impl.State{Hub: impl.Hub{Topics: list, Merges: []impl.Merge{m, over, far, mergeInto(3, overAt(6, 4))}, Users: users(1)}, Clients: []impl.Client{{Prog: []impl.Call{publishes(">", num(1)), asks(impl.OpClose, 6)}}}})
 }
 
 // TestEachCallOfAClient has each call as the one that a client is at, waiting and not, beside others.
@@ -468,6 +468,9 @@ func TestEachWaitOfAClient(t *testing.T) {
 
 // TestEachLegOfAState has merges with rings of each kind, and clients at what they give to.
 func TestEachLegOfAState(t *testing.T) {
+	if n := len(impl.Steps(legState())); !impl.StateOk(legState()) || n != 5 {
+		t.Error("the legs are not right", n)
+	}
 	checkAll(t, legState(), 1, upTo(0, 30), upTo(-30, 60))
 	kinds := []impl.Ring{hasMessages(), hasLost(), hasNone(), hasOthers(), isRead(), closedRing(hasMessages())}
 	for i, a := range kinds {
